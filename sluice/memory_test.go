@@ -1,0 +1,133 @@
+package sluice_test
+
+import (
+	"bytes"
+	"math/rand"
+	"slices"
+	"testing"
+
+	"sluice/api"
+	"sluice/sluice"
+)
+
+// TestP1AnyInput: wild lists and bytes: every call ends, none panics, and with an error all but the place is empty.
+func TestP1AnyInput(t *testing.T) {
+	r := rand.New(rand.NewSource(1))
+	for range 20000 {
+		b := make([]byte, r.Intn(200))
+		r.Read(b)
+		l, e := sluice.Decode(b)
+		if (e == api.OK) != (len(l) > 0) {
+			t.Fatalf("P1: Decode of %x: %v, %d", b, l, e)
+		}
+		sluice.Encode(l)
+		l = wildProgram(r)
+		if e, at := sluice.Check(l); e < api.OK || e > api.ErrUnset || at < 0 || at >= max(1, len(l)) || e == api.OK && at != 0 {
+			t.Fatalf("P1: Check of %+v: %d, %d", l, e, at)
+		}
+	}
+}
+
+// wildProgram: codes that there are, nearly always; fields that are often at an edge.
+func wildProgram(r *rand.Rand) insns {
+	edges := []uint32{0, 1, 2, 4, 15, 16, 31, 32, 60, 64, 1 << 31, 1<<32 - 1}
+	named := codes()
+	l := make(insns, r.Intn(12))
+	for i := range l {
+		l[i] = api.Insn{Code: named[r.Intn(len(named))], Jt: uint8(r.Intn(4)), Jf: uint8(r.Intn(4)), K: edges[r.Intn(len(edges))]}
+		if r.Intn(50) == 0 {
+			l[i].Code = uint16(r.Intn(1 << 16))
+		}
+	}
+	return l
+}
+
+func TestP1TheOtherCalls(t *testing.T) {
+	for _, l := range []insns{nil, {}, {end}, returns(5000)} {
+		for _, record := range []string{"", "x", string(make([]byte, 64)), string(make([]byte, 65))} {
+			sluice.Run(l, record)
+			sluice.New().Judge(record)
+		}
+		sluice.New().Install(sluice.Encode(l), nil)
+	}
+	sluice.New().Install()
+	sluice.Compile(api.Policy{})
+	sluice.Compile(api.Policy{Rules: []api.Rule{{Tests: []api.Test{{Arg: -1, How: 99}}}}})
+}
+
+func TestP2NothingHandedInIsWrittenInto(t *testing.T) {
+	l, b := pairs()
+	spareL := append(slices.Clone(l), withK(77, 77), withK(78, 78))
+	spareB := append(slices.Clone(b), "spare room"...)
+	keptL, keptB := slices.Clone(spareL), slices.Clone(spareB)
+	sluice.Decode(spareB[:len(b)])
+	sluice.Encode(spareL[:len(l)])
+	sluice.Check(spareL[:len(l)])
+	sluice.Check(spareL[:1])
+	if !slices.Equal(spareL, keptL) || !bytes.Equal(spareB, keptB) {
+		t.Errorf("P2: what was handed in is changed: %v, %x", spareL, spareB)
+	}
+}
+
+// scribble writes into all of a list, its spare room too.
+func scribble[T any](l []T, v T) {
+	l = l[:cap(l)]
+	for i := range l {
+		l[i] = v
+	}
+}
+
+func TestP2WhatComesOutIsNew(t *testing.T) {
+	l, b := pairs()
+	keptL, keptB := slices.Clone(l), slices.Clone(b)
+	l1, _ := sluice.Decode(b)
+	b1 := sluice.Encode(l)
+	l2, _ := sluice.Decode(b)
+	b2 := sluice.Encode(l)
+	scribble(l1, withK(99, 99))
+	scribble(b1, 99)
+	l3, _ := sluice.Decode(b)
+	b3 := sluice.Encode(l)
+	if !slices.Equal(l, keptL) || !bytes.Equal(b, keptB) {
+		t.Errorf("P2: writing into what came out changes what was handed in")
+	}
+	if !slices.Equal(l2, keptL) || !bytes.Equal(b2, keptB) {
+		t.Errorf("P2: writing into what came out changes what else came out")
+	}
+	if !slices.Equal(l3, keptL) || !bytes.Equal(b3, keptB) {
+		t.Errorf("P2: writing into what came out changes what comes out later")
+	}
+}
+
+func TestP2NothingHandedInIsKept(t *testing.T) {
+	l, b := pairs()
+	keptL, keptB := slices.Clone(l), slices.Clone(b)
+	l1, _ := sluice.Decode(b)
+	b1 := sluice.Encode(l)
+	scribble(l, withK(99, 99))
+	scribble(b, 99)
+	if !slices.Equal(l1, keptL) || !bytes.Equal(b1, keptB) {
+		t.Errorf("P2: writing into what was handed in changes what came out")
+	}
+}
+
+func TestP2TheSameAgain(t *testing.T) {
+	r := rand.New(rand.NewSource(2))
+	var lists []insns
+	var first []checkCase
+	for range 2000 {
+		l := wildProgram(r)
+		e, at := sluice.Check(l)
+		lists = append(lists, l)
+		first = append(first, checkCase{"asked again", l, e, at})
+	}
+	slices.Reverse(first)
+	runCheckCases(t, "P2", first)
+	for i, l := range lists {
+		room := append(make(insns, 0, len(l)+9), l...)
+		c := first[len(first)-1-i]
+		if e, at := sluice.Check(room); e != c.e || at != c.at {
+			t.Errorf("P2: Check of %v hangs on its spare room: %d, %d, want %d, %d", l, e, at, c.e, c.at)
+		}
+	}
+}

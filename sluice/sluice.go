@@ -1,0 +1,35 @@
+// Package sluice: small programs that say what is to be done with a call: see DOC.md.
+package sluice
+
+import (
+	"sluice/api"
+	"sluice/check"
+	"sluice/wire"
+)
+
+// Decode reads instructions from bytes (P3).
+func Decode(b []byte) ([]api.Insn, api.Errno) { return wire.Decode(b) }
+
+// Encode writes instructions as bytes (P3).
+func Encode(l []api.Insn) []byte { return wire.Encode(l) }
+
+// Check looks whether instructions are a program; what is wrong, and where (P4, P5).
+func Check(l []api.Insn) (api.Errno, int) { return check.Program(l) }
+
+// Run runs a program on a record: its verdict, its steps (P6).
+func Run(l []api.Insn, record string) (uint32, int, api.Errno) { return 0, 0, api.OK }
+
+// Compile makes a program of rules (P7).
+func Compile(p api.Policy) ([]api.Insn, api.Errno) { return nil, api.OK }
+
+// Stack is programs, one upon the other.
+type Stack struct{}
+
+// New makes a stack of none (P8).
+func New() *Stack { return nil }
+
+// Install puts programs upon a stack, all or none (P8).
+func (s *Stack) Install(programs ...[]byte) (api.Errno, int) { return api.OK, 0 }
+
+// Judge tells the verdict of a stack on a record, and whose it is (P8).
+func (s *Stack) Judge(record string) (uint32, int, api.Errno) { return 0, 0, api.OK }
