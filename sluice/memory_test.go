@@ -4,6 +4,7 @@ import (
 	"bytes"
 	"math/rand"
 	"slices"
+	"strings"
 	"testing"
 
 	"sluice/api"
@@ -25,6 +26,29 @@ func TestP1AnyInput(t *testing.T) {
 		if e, at := sluice.Check(l); e < api.OK || e > api.ErrUnset || at < 0 || at >= max(1, len(l)) || e == api.OK && at != 0 {
 			t.Fatalf("P1: Check of %+v: %d, %d", l, e, at)
 		}
+		checkWildRun(t, l, wildRecord(r))
+	}
+}
+
+// wildRecord: of a right length, nearly always.
+func wildRecord(r *rand.Rand) string {
+	b := make([]byte, 64)
+	if r.Intn(10) == 0 {
+		b = make([]byte, r.Intn(130))
+	}
+	r.Read(b)
+	return string(b)
+}
+
+func checkWildRun(t *testing.T, l insns, record string) {
+	t.Helper()
+	want, _ := sluice.Check(l)
+	if want == api.OK && len(record) != 64 {
+		want = api.ErrRecord
+	}
+	v, steps, e := sluice.Run(l, record)
+	if e != want || e != api.OK && (v != 0 || steps != 0) || e == api.OK && (steps < 1 || steps > len(l)) {
+		t.Fatalf("P1: Run of %+v on %x: %#x, %d, %d, want %d", l, record, v, steps, e, want)
 	}
 }
 
@@ -45,7 +69,6 @@ func wildProgram(r *rand.Rand) insns {
 func TestP1TheOtherCalls(t *testing.T) {
 	for _, l := range []insns{nil, {}, {end}, returns(5000)} {
 		for _, record := range []string{"", "x", string(make([]byte, 64)), string(make([]byte, 65))} {
-			sluice.Run(l, record)
 			sluice.New().Judge(record)
 		}
 		sluice.New().Install(sluice.Encode(l), nil)
@@ -53,6 +76,52 @@ func TestP1TheOtherCalls(t *testing.T) {
 	sluice.New().Install()
 	sluice.Compile(api.Policy{})
 	sluice.Compile(api.Policy{Rules: []api.Rule{{Tests: []api.Test{{Arg: -1, How: 99}}}}})
+}
+
+func TestP2RunWritesNothing(t *testing.T) {
+	r := rand.New(rand.NewSource(3))
+	for range 2000 {
+		l := rightProgram(r)
+		spare := append(slices.Clone(l), withK(77, 77), withK(78, 78))
+		kept := slices.Clone(spare)
+		record := wildRecord(r)
+		keptRecord := strings.Clone(record)
+		sluice.Run(spare[:len(l)], record)
+		sluice.Run(spare[:len(l)-1], record)
+		if !slices.Equal(spare, kept) || record != keptRecord {
+			t.Fatalf("P2: Run changes what was handed in: %+v, was %+v", spare, kept)
+		}
+	}
+}
+
+// TestP2RunLeavesNothing: a run begins anew, whatever was run ahead of it.
+func TestP2RunLeavesNothing(t *testing.T) {
+	r := rand.New(rand.NewSource(4))
+	for range 500 {
+		sluice.Run(rightProgram(r), wildRecord(r))
+		runRunCases(t, "P2", numbered(), []runCase{
+			{"A of an earlier run", insns{end}, 0, 1},
+			{"X of an earlier run", insns{withK(api.FromX, 0), end}, 0, 2},
+		})
+	}
+}
+
+func TestP2TheSameRunAgain(t *testing.T) {
+	r := rand.New(rand.NewSource(7))
+	var lists []insns
+	var first []runCase
+	for range 2000 {
+		l := rightProgram(r)
+		v, steps, _ := sluice.Run(l, numbered())
+		lists = append(lists, append(make(insns, 0, len(l)+9), l...))
+		first = append(first, runCase{"asked again", l, v, steps})
+	}
+	slices.Reverse(first)
+	runRunCases(t, "P2", numbered(), first)
+	for i := range first {
+		first[i].l = lists[len(lists)-1-i]
+	}
+	runRunCases(t, "P2", numbered(), first)
 }
 
 func TestP2NothingHandedInIsWrittenInto(t *testing.T) {

@@ -4,6 +4,7 @@ package sluice
 import (
 	"sluice/api"
 	"sluice/check"
+	"sluice/machine"
 	"sluice/wire"
 )
 
@@ -17,7 +18,16 @@ func Encode(l []api.Insn) []byte { return wire.Encode(l) }
 func Check(l []api.Insn) (api.Errno, int) { return check.Program(l) }
 
 // Run runs a program on a record: its verdict, its steps (P6).
-func Run(l []api.Insn, record string) (uint32, int, api.Errno) { return 0, 0, api.OK }
+func Run(l []api.Insn, record string) (uint32, int, api.Errno) {
+	if e, _ := check.Program(l); e != api.OK {
+		return 0, 0, e
+	}
+	if len(record) != api.RecordSize {
+		return 0, 0, api.ErrRecord
+	}
+	verdict, steps := machine.Run(l, record)
+	return verdict, steps, api.OK
+}
 
 // Compile makes a program of rules (P7).
 func Compile(p api.Policy) ([]api.Insn, api.Errno) { return nil, api.OK }
