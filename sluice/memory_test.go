@@ -74,8 +74,6 @@ func TestP1TheOtherCalls(t *testing.T) {
 		sluice.New().Install(sluice.Encode(l), nil)
 	}
 	sluice.New().Install()
-	sluice.Compile(api.Policy{})
-	sluice.Compile(api.Policy{Rules: []api.Rule{{Tests: []api.Test{{Arg: -1, How: 99}}}}})
 }
 
 func TestP2RunWritesNothing(t *testing.T) {

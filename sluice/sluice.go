@@ -4,6 +4,7 @@ package sluice
 import (
 	"sluice/api"
 	"sluice/check"
+	"sluice/compile"
 	"sluice/machine"
 	"sluice/wire"
 )
@@ -30,7 +31,7 @@ func Run(l []api.Insn, record string) (uint32, int, api.Errno) {
 }
 
 // Compile makes a program of rules (P7).
-func Compile(p api.Policy) ([]api.Insn, api.Errno) { return nil, api.OK }
+func Compile(p api.Policy) ([]api.Insn, api.Errno) { return compile.Policy(p) }
 
 // Stack is programs, one upon the other.
 type Stack struct{}
