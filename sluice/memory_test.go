@@ -66,16 +66,6 @@ func wildProgram(r *rand.Rand) insns {
 	return l
 }
 
-func TestP1TheOtherCalls(t *testing.T) {
-	for _, l := range []insns{nil, {}, {end}, returns(5000)} {
-		for _, record := range []string{"", "x", string(make([]byte, 64)), string(make([]byte, 65))} {
-			sluice.New().Judge(record)
-		}
-		sluice.New().Install(sluice.Encode(l), nil)
-	}
-	sluice.New().Install()
-}
-
 func TestP2RunWritesNothing(t *testing.T) {
 	r := rand.New(rand.NewSource(3))
 	for range 2000 {

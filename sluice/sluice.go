@@ -6,6 +6,7 @@ import (
 	"sluice/check"
 	"sluice/compile"
 	"sluice/machine"
+	"sluice/stack"
 	"sluice/wire"
 )
 
@@ -34,13 +35,21 @@ func Run(l []api.Insn, record string) (uint32, int, api.Errno) {
 func Compile(p api.Policy) ([]api.Insn, api.Errno) { return compile.Policy(p) }
 
 // Stack is programs, one upon the other.
-type Stack struct{}
+type Stack struct {
+	programs stack.Programs
+}
 
 // New makes a stack of none (P8).
-func New() *Stack { return nil }
+func New() *Stack { return &Stack{} }
 
 // Install puts programs upon a stack, all or none (P8).
-func (s *Stack) Install(programs ...[]byte) (api.Errno, int) { return api.OK, 0 }
+func (s *Stack) Install(programs ...[]byte) (api.Errno, int) { return s.programs.Install(programs...) }
 
 // Judge tells the verdict of a stack on a record, and whose it is (P8).
-func (s *Stack) Judge(record string) (uint32, int, api.Errno) { return 0, 0, api.OK }
+func (s *Stack) Judge(record string) (uint32, int, api.Errno) {
+	if len(record) != api.RecordSize {
+		return 0, 0, api.ErrRecord
+	}
+	verdict, whose := s.programs.Judge(record)
+	return verdict, whose, api.OK
+}
